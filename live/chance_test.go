@@ -74,13 +74,17 @@ func TestManyRegistersByChance(t *testing.T) { // P12.1, P12.2
 	}
 }
 
-// TestRegsByChance: with one register less nothing but that register goes.
-func TestRegsByChance(t *testing.T) { // P12.1
+// TestRegsByChance: with one register less nothing but that register goes, and who writes it.
+func TestRegsByChance(t *testing.T) { // P12.1, P12.2
 	m := chancer{rand.New(rand.NewSource(123))}
 	for range 2000 {
 		f := m.function(1+m.Intn(9), 20)
-		whole := Tables(f)
+		whole, dead := Tables(f), Dead(f)
 		f.Regs--
+		dead = slices.DeleteFunc(dead, func(at int) bool { return f.Code[at].A == f.Regs })
+		if l := Dead(f); !slices.Equal(l, dead) {
+			t.Fatal(l, dead, f)
+		}
 		for at, l := range Tables(f) {
 			want := slices.DeleteFunc(slices.Clone(whole[at]), func(n int) bool { return n == f.Regs })
 			if !slices.Equal(l, want) {

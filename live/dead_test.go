@@ -1,6 +1,7 @@
 package live
 
 import (
+	"math"
 	"slices"
 	"testing"
 
@@ -80,12 +81,29 @@ func TestDeadOnOneWay(t *testing.T) { // P12.2
 	wantDead(t, of(3, num(1), zero(0, 3), num(1), ret(1)))
 }
 
-// TestDeadRegistersThatThereAreNot: such registers are live nowhere. That -1 is written can't be told from nothing being written.
+// TestDeadRegistersThatThereAreNot: such registers don't count, so that whoever writes one is not dead, though it is live nowhere.
 func TestDeadRegistersThatThereAreNot(t *testing.T) { // P12.2
-	wantDead(t, of(1, num(0), num(1), out(1), ret(0)), 1)
-	wantDead(t, of(1, num(-2), out(-2), ret(0)), 0)
+	wantDead(t, of(1, num(0), num(1), out(1), ret(0)))
+	wantDead(t, of(1, num(-2), out(-2), ret(0)))
 	wantDead(t, of(1, num(-1), out(-1), ret(0)))
-	wantDead(t, of(0, num(0), ret(0)), 0)
-	wantDead(t, of(-3, num(0), num(-3), ret(0)), 0, 1)
-	wantDead(t, of(2000, num(999), num(1000), add(999, 999, 1000), ret(999)), 1)
+	wantDead(t, of(1, num(-2), num(-1), num(0), ret(0)))
+	wantDead(t, of(1, num(1), api.Ins{Op: api.InsNull, A: 64}, num(0), ret(0)))
+	wantDead(t, of(0, num(0)))
+	wantDead(t, of(0, num(0), ret(0)))
+	wantDead(t, of(-3, num(0), num(-3), ret(0)))
+	wantDead(t, of(2000, num(999), num(1000), add(999, 999, 1000), ret(999)))
+	wantDead(t, of(2000, num(999), num(1000), num(1999), ret(0)), 0)
+	// Beside such as there are, with nobody who asks for either.
+	wantDead(t, of(2, num(-1), num(0), num(1), num(2), ret(5)), 1, 2)
+}
+
+// TestNoOpIsDeadOfARegisterThatThereIsNot has all instructions write registers just beside those that there are, and far from them.
+func TestNoOpIsDeadOfARegisterThatThereIsNot(t *testing.T) { // P12.2
+	for op := 1; op <= ops; op++ {
+		for _, regs := range sizes {
+			for _, a := range []int{-1, -2, min(max(regs, 0), 1000), max(regs, 1000), math.MinInt, math.MaxInt} {
+				wantDead(t, of(regs, api.Ins{Op: op, A: a, K: 1, L: []int{a}}, ret(0)))
+			}
+		}
+	}
 }

@@ -1,6 +1,7 @@
 package live
 
 import (
+	"fmt"
 	"math"
 	"slices"
 	"strings"
@@ -63,7 +64,7 @@ func reckon(f api.Func) [][]int {
 				}
 			}
 			for _, n := range want {
-				if n >= 0 && n < f.Regs && n < 1000 && sets[at][n] == 0 {
+				if counted(n, f.Regs) && sets[at][n] == 0 {
 					sets[at][n] = 1
 					grown = true
 				}
@@ -85,12 +86,12 @@ func listed(sets []map[int]int) [][]int {
 	return l
 }
 
-// unwanted is the tests' own Dead, of what is live. Of an instruction whose register is -1 ir.Writes says that it writes none.
+// unwanted is the tests' own Dead, of what is live. A register that there isn't is none that is written for nothing.
 func unwanted(f api.Func, live [][]int) []int {
 	var l []int
 	for at, i := range f.Code {
 		written := column(i, 1)
-		if len(written) == 0 || written[0] == -1 {
+		if len(written) == 0 || !counted(written[0], f.Regs) {
 			continue
 		}
 		is := false
@@ -110,10 +111,10 @@ func sameLists(a, b [][]int) bool { return slices.EqualFunc(a, b, slices.Equal[[
 func wantLive(t testing.TB, f api.Func, live [][]int, dead ...int) {
 	t.Helper()
 	if l := Tables(f); !sameLists(l, live) {
-		t.Errorf("%.600v are live; wanted %.600v of\n%.1000s", l, live, ir.Show(f))
+		t.Errorf("%.600s are live; wanted %.600s of\n%.1000s", fmt.Sprint(l), fmt.Sprint(live), ir.Show(f))
 	}
 	if l := Dead(f); !slices.Equal(l, dead) {
-		t.Errorf("%.600v are dead; wanted %.600v of\n%.1000s", l, dead, ir.Show(f))
+		t.Errorf("%.600s are dead; wanted %.600s of\n%.1000s", fmt.Sprint(l), fmt.Sprint(dead), ir.Show(f))
 	}
 }
 

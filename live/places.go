@@ -5,8 +5,11 @@ import (
 	"swath/ir"
 )
 
-// place is what is known of an instruction: what is live ahead of it, the register that it writes, and the places from which the
-// code may go on to it; waits, while its set has grown and those places have not been told.
+// none stands for the register of an instruction that writes no register that counts.
+const none = -1
+
+// place is what is known of an instruction: what is live ahead of it, the register that it writes, or none, and the places from which
+// the code may go on to it; waits, while its set has grown and those places have not been told.
 type place struct {
 	live   set
 	writes int
@@ -25,7 +28,7 @@ func reckoned(f api.Func) []place {
 	r := reckoning{places: make([]place, len(f.Code))}
 	for at, i := range f.Code {
 		r.places[at].live = readBy(i, f.Regs)
-		r.places[at].writes = ir.Writes(i)
+		r.places[at].writes = writtenBy(i, f.Regs)
 		for _, next := range ir.Next(f, at) {
 			r.places[next].from = append(r.places[next].from, at)
 		}
@@ -41,11 +44,25 @@ func reckoned(f api.Func) []place {
 func readBy(i api.Ins, regs int) set {
 	var s set
 	for _, n := range ir.Reads(i) {
-		if n >= 0 && n < min(regs, most) {
+		if counts(n, regs) {
 			s.add(n)
 		}
 	}
 	return s
+}
+
+// writtenBy is the register that an instruction writes, if it counts in a function with so many. One that there isn't is as good as
+// none: it could be neither live nor dead.
+func writtenBy(i api.Ins, regs int) int {
+	if n := ir.Writes(i); counts(n, regs) {
+		return n
+	}
+	return none
+}
+
+// counts tells whether there is such a register in a function with so many.
+func counts(register, regs int) bool {
+	return register >= 0 && register < min(regs, most)
 }
 
 func (r *reckoning) wait(at int) {

@@ -41,22 +41,15 @@ func TestRegistersThatAreRead(t *testing.T) { // P12.1
 func TestRegistersThatAreWritten(t *testing.T) { // P12.1, P12.2
 	for _, regs := range sizes {
 		for _, n := range numbers {
-			// A register that isn't there is live nowhere, so that whoever writes it does so for nothing; -1 is none.
-			var dead []int
-			if n != -1 && !counted(n, regs) {
-				dead = []int{0}
-			}
-			wantLive(t, of(regs, num(n), ret(n)), [][]int{nil, onlyIf(counted(n, regs), n)}, dead...)
+			// A register that isn't there is live nowhere, but nobody writes it for nothing either.
+			wantLive(t, of(regs, num(n), ret(n)), [][]int{nil, onlyIf(counted(n, regs), n)})
 			// It hides no other one.
-			wantLive(t, of(regs, num(n), ret(5)), [][]int{onlyIf(n != 5 && counted(5, regs), 5), onlyIf(counted(5, regs), 5)}, onlyDead(n, regs)...)
+			wantLive(t, of(regs, num(n), ret(5)), [][]int{onlyIf(n != 5 && counted(5, regs), 5), onlyIf(counted(5, regs), 5)}, onlyIf(n != 5 && counted(n, regs), 0)...)
 			both := onlyIf(counted(n, regs), n)
-			wantLive(t, of(regs, move(n, n), ret(n)), [][]int{both, both}, dead...)
+			wantLive(t, of(regs, move(n, n), ret(n)), [][]int{both, both})
 		}
 	}
 }
-
-// onlyDead is 0, if a write of n is for nothing ahead of what reads 5.
-func onlyDead(n, regs int) []int { return onlyIf(n != -1 && (n != 5 || !counted(5, regs)), 0) }
 
 // TestRegsAlone has code that names registers at and about all bounds, whatever Regs is.
 func TestRegsAlone(t *testing.T) { // P12.1, P12.2
@@ -68,15 +61,16 @@ func TestRegsAlone(t *testing.T) { // P12.1, P12.2
 			}
 		}
 		f := of(regs, merge(0, numbers...), call(3, numbers...), ret(0))
-		wantLive(t, f, [][]int{want, want, onlyIf(regs > 0, 0)}, 1)
+		wantLive(t, f, [][]int{want, want, onlyIf(regs > 0, 0)}, onlyIf(regs > 3, 1)...)
 	}
 }
 
 // TestRegistersFrom1000On has code that names no register below 1000.
 func TestRegistersFrom1000On(t *testing.T) { // P12.1, P12.2
 	for _, regs := range []int{999, 1000, 1001, 1010, 2000, math.MaxInt} {
-		wantLive(t, of(regs, num(1000), num(1005), add(1001, 1000, 1005), zero(1001, 0), call(1002, 1003, 1004), ret(1002)), make([][]int, 6), 0, 1, 2, 4)
-		wantLive(t, of(regs, num(998), num(1000), ret(998)), [][]int{no, {998}, {998}}, 1)
+		wantLive(t, of(regs, num(1000), num(1005), add(1001, 1000, 1005), zero(1001, 0), call(1002, 1003, 1004), ret(1002)), make([][]int, 6))
+		wantLive(t, of(regs, num(998), num(1000), ret(998)), [][]int{no, {998}, {998}})
+		wantLive(t, of(regs, num(998), num(997), num(1000), ret(998)), [][]int{no, {998}, {998}, {998}}, 1)
 	}
 }
 
@@ -86,7 +80,9 @@ func TestOneRegisterOfMany(t *testing.T) { // P12.1, P12.2
 		wantLive(t, of(1000, num(n), out(n), ret(n)), [][]int{no, {n}, {n}})
 		other := (n + 64) % 1000
 		wantLive(t, of(1000, num(other), ret(n)), [][]int{{n}, {n}}, 0)
-		wantLive(t, of(n, num(n), ret(n)), [][]int{no, no}, 0)
+		wantLive(t, of(n, num(n), ret(n)), [][]int{no, no})
+		wantLive(t, of(n, num(n), step), [][]int{no, no})
+		wantLive(t, of(n+1, num(n), step), [][]int{no, no}, 0)
 	}
 }
 
