@@ -58,14 +58,19 @@ func (w *writer) source(s api.Src) {
 	switch s.Kind {
 	case api.SrcConst:
 		want(s.N == 0)
-		w.number(s.Val.Kind)
-		w.signed(s.Val.N)
+		w.value(s.Val)
 	case api.SrcVar, api.SrcVirt:
 		want(s.Val == api.Value{})
 		w.number(s.N)
 	default:
 		want(false)
 	}
+}
+
+// value writes both numbers of a value with a sign: its Kind may be any, also one that no value of a heap has.
+func (w *writer) value(v api.Value) {
+	w.signed(int64(v.Kind))
+	w.signed(v.N)
 }
 
 // number writes a number without a sign, or throws if it may not stand there.
@@ -133,14 +138,20 @@ func (r *reader) source() api.Src {
 	s := api.Src{Kind: r.number()}
 	switch s.Kind {
 	case api.SrcConst:
-		s.Val.Kind = r.number()
-		s.Val.N = r.signed()
+		s.Val = r.value()
 	case api.SrcVar, api.SrcVirt:
 		s.N = r.number()
 	default:
 		want(false)
 	}
 	return s
+}
+
+func (r *reader) value() api.Value {
+	var v api.Value
+	v.Kind = int(r.signed())
+	v.N = r.signed()
+	return v
 }
 
 func (r *reader) number() int {

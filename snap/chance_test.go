@@ -216,12 +216,9 @@ func TestSpoiledBytes(t *testing.T) { // P17.4, P17.5, P1
 	are, none := 0, 0
 	for range 20000 {
 		x := m.trace(3)
-		for n := range x.Virts {
-			x.Virts[n].Cells = slices.DeleteFunc(x.Virts[n].Cells, func(s api.Src) bool { return s.Val.Kind < 0 })
-		}
 		b, e := Encode(x.Links, x.Virts)
 		if e != api.OK {
-			continue
+			t.Fatalf("%v of %.300s", e, text(x))
 		}
 		for range 1 + m.Intn(3) {
 			at := m.Intn(len(b))

@@ -61,6 +61,7 @@ func samples(t testing.TB) [][]byte {
 		{nil, []api.Virt{{}}},
 		{[]api.Link{link(-1, 1, c(5), v(6), w(7))}, []api.Virt{virt(1, c(-5), con(null), con(ref(300)))}},
 		{[]api.Link{link(-1, 1), link(300, 2, c(1<<40), v(1<<40)), link(1<<40-1, 1<<30, c(math.MinInt64), c(math.MaxInt64), c(0))}, []api.Virt{virt(0), virt(1<<40, w(1<<40)), virt(2, con(api.Value{Kind: 1 << 40, N: -1}))}},
+		{[]api.Link{plain(-1, con(api.Value{Kind: -1}), con(api.Value{Kind: 64, N: -64}), con(api.Value{Kind: 1<<40 + 1, N: 3}))}, []api.Virt{virt(0, con(api.Value{Kind: -65, N: 1}), con(api.Value{Kind: math.MaxInt}), con(api.Value{Kind: math.MinInt, N: 2}))}},
 	} {
 		b, e := Encode(s.l, s.x)
 		if e != api.OK {
@@ -133,15 +134,45 @@ func TestTooGreatNumbers(t *testing.T) { // P17.4
 	}
 }
 
+// TestTooGreatSignedNumbers: with a sign just those of more than 64 bits are none.
 func TestTooGreatSignedNumbers(t *testing.T) { // P17.4
-	ahead := [][]byte{{1, 0, 0, 0, 0, 1, 0, 0}, {1, 0, 0, 0, 0, 1, 0, 2}, {0, 1, 0, 1, 0, 0}}
-	then := [][]byte{{0}, {0}, nil}
-	for at := range ahead {
+	for _, f := range signedFields() {
 		for _, n := range tooMany {
-			wantNone(t, slices.Concat(ahead[at], n, then[at]))
+			wantNone(t, slices.Concat(f.ahead, n, f.then))
 		}
 		for _, n := range signless {
-			if b := slices.Concat(ahead[at], n, then[at]); !wantAsReckoned(t, b) {
+			if b := slices.Concat(f.ahead, n, f.then); !wantAsReckoned(t, b) {
+				t.Errorf("%s: % x", f.name, b)
+			}
+		}
+	}
+}
+
+// TestMoreBytesThanSignedNeedBe: no number with a sign has bytes of nothing behind its own.
+func TestMoreBytesThanSignedNeedBe(t *testing.T) { // P17.4
+	for _, f := range signedFields() {
+		for _, n := range signedNumerals() {
+			last := len(n.bytes) - 1
+			own := slices.Concat(n.bytes[:last], []byte{n.bytes[last] | 0x80})
+			for more := range 12 {
+				wantNone(t, slices.Concat(f.ahead, own, bytes.Repeat([]byte{0x80}, more), []byte{0}, f.then))
+			}
+		}
+	}
+}
+
+// TestKindsOfValuesRead: each byte, and each two, as the kind of a constant's value.
+func TestKindsOfValuesRead(t *testing.T) { // P17.4
+	for one := range 128 {
+		kind := one / 2
+		if one%2 == 1 {
+			kind = -kind - 1
+		}
+		source := con(api.Value{Kind: kind, N: 3})
+		wantDecoded(t, []byte{1, 0, 0, 0, 0, 1, 0, byte(one), 6, 0}, []api.Link{{Up: -1, Into: -1, Regs: list(source)}}, nil)
+		wantDecoded(t, []byte{0, 1, 0, 1, 0, byte(one), 6}, nil, []api.Virt{virt(0, source)})
+		for two := range 128 {
+			if b := []byte{1, 0, 0, 0, 0, 1, 0, byte(one) | 0x80, byte(two), 6, 0}; wantAsReckoned(t, b) != (two > 0) {
 				t.Errorf("% x", b)
 			}
 		}

@@ -61,7 +61,7 @@ func TestLinks(t *testing.T) { // P17.4
 	wantBytes(t, []api.Link{{Up: -1, Fn: 1, Pc: 2, Into: -1, Regs: list(v(3))}, {Up: 0, Fn: 4, Pc: 5, Into: 0, Regs: list(w(6), c(7))}}, nil,
 		2, 0, 1, 2, 0, 1, 1, 3, 1, 4, 5, 1, 2, 2, 6, 0, 0, 14, 0)
 	wantBytes(t, nil, []api.Virt{{Rec: 9, Cells: list(c(-1), v(2))}, {Rec: 1}, {Rec: 0, Cells: list(w(3))}}, 0, 3, 9, 2, 0, 0, 1, 1, 2, 1, 0, 0, 1, 2, 3)
-	wantBytes(t, []api.Link{{Up: 300, Fn: 1}}, []api.Virt{{Rec: 2, Cells: list(con(null))}}, 1, 0xAD, 2, 1, 0, 1, 0, 1, 2, 1, 0, 1, 0)
+	wantBytes(t, []api.Link{{Up: 300, Fn: 1}}, []api.Virt{{Rec: 2, Cells: list(con(null))}}, 1, 0xAD, 2, 1, 0, 1, 0, 1, 2, 1, 0, 2, 0)
 }
 
 // TestKinds: each kind of source and of value.
@@ -70,8 +70,9 @@ func TestKinds(t *testing.T) { // P17.4
 		source api.Src
 		want   []byte
 	}{
-		{api.Src{}, []byte{0, 0, 0}}, {c(5), []byte{0, 0, 10}}, {c(-5), []byte{0, 0, 9}}, {con(null), []byte{0, 1, 0}}, {con(api.Value{Kind: api.Null, N: -2}), []byte{0, 1, 3}},
-		{con(ref(0)), []byte{0, 2, 0}}, {con(ref(64)), []byte{0, 2, 0x80, 1}}, {con(ref(-1)), []byte{0, 2, 1}}, {con(api.Value{Kind: 3, N: 4}), []byte{0, 3, 8}}, {con(api.Value{Kind: 200}), []byte{0, 0xC8, 1, 0}},
+		{api.Src{}, []byte{0, 0, 0}}, {c(5), []byte{0, 0, 10}}, {c(-5), []byte{0, 0, 9}}, {con(null), []byte{0, 2, 0}}, {con(api.Value{Kind: api.Null, N: -2}), []byte{0, 2, 3}},
+		{con(ref(0)), []byte{0, 4, 0}}, {con(ref(64)), []byte{0, 4, 0x80, 1}}, {con(ref(-1)), []byte{0, 4, 1}}, {con(api.Value{Kind: 3, N: 4}), []byte{0, 6, 8}}, {con(api.Value{Kind: 200}), []byte{0, 0x90, 3, 0}},
+		{con(api.Value{Kind: -1}), []byte{0, 1, 0}}, {con(api.Value{Kind: -1, N: 3}), []byte{0, 1, 6}}, {con(api.Value{Kind: -2, N: -2}), []byte{0, 3, 3}}, {con(api.Value{Kind: -200, N: 1}), []byte{0, 0x8F, 3, 2}},
 		{v(0), []byte{1, 0}}, {v(5), []byte{1, 5}}, {v(128), []byte{1, 0x80, 1}}, {w(0), []byte{2, 0}}, {w(7), []byte{2, 7}}, {w(300), []byte{2, 0xAC, 2}},
 	} {
 		wantBytes(t, []api.Link{{Up: -1, Into: -1, Regs: list(s.source)}}, nil, slices.Concat([]byte{1, 0, 0, 0, 0, 1}, s.want, []byte{0})...)
@@ -121,7 +122,6 @@ func noLinks(int) []api.Link { return nil }
 func noVirts(int) []api.Virt { return nil }
 
 func fields() []field {
-	kind := func(n int) api.Src { return con(api.Value{Kind: n, N: 1}) }
 	return []field{
 		{"Up", linkWith(func(x *api.Link, n int) { x.Up = n }), noVirts, []byte{1}, []byte{0, 0, 0, 0, 0}, 1},
 		{"Fn", linkWith(func(x *api.Link, n int) { x.Fn = n }), noVirts, []byte{1, 0}, []byte{0, 0, 0, 0}, 0},
@@ -129,11 +129,23 @@ func fields() []field {
 		{"Into", linkWith(func(x *api.Link, n int) { x.Into = n }), noVirts, []byte{1, 0, 0, 0}, []byte{0, 0}, 1},
 		{"a register's variable", linkWith(func(x *api.Link, n int) { x.Regs = list(v(n)) }), noVirts, []byte{1, 0, 0, 0, 0, 1, 1}, []byte{0}, 0},
 		{"a register's Virt", linkWith(func(x *api.Link, n int) { x.Regs = list(w(n)) }), noVirts, []byte{1, 0, 0, 0, 0, 1, 2}, []byte{0}, 0},
-		{"the kind of a register's value", linkWith(func(x *api.Link, n int) { x.Regs = list(kind(n)) }), noVirts, []byte{1, 0, 0, 0, 0, 1, 0}, []byte{2, 0}, 0},
 		{"Rec", noLinks, virtWith(func(x *api.Virt, n int) { x.Rec = n }), []byte{0, 1}, []byte{0}, 0},
 		{"a cell's variable", noLinks, virtWith(func(x *api.Virt, n int) { x.Cells = list(v(n)) }), []byte{0, 1, 0, 1, 1}, nil, 0},
 		{"a cell's Virt", noLinks, virtWith(func(x *api.Virt, n int) { x.Cells = list(v(7), w(n)) }), []byte{0, 1, 0, 2, 1, 7, 2}, nil, 0},
+	}
+}
+
+// signedFields are the two numbers of a value that have a sign, each at more than one place.
+func signedFields() []field {
+	kind := func(n int) api.Src { return con(api.Value{Kind: n, N: 1}) }
+	num := func(n int) api.Src { return con(api.Value{Kind: 64, N: int64(n)}) }
+	return []field{
+		{"the kind of a register's value", linkWith(func(x *api.Link, n int) { x.Regs = list(kind(n)) }), noVirts, []byte{1, 0, 0, 0, 0, 1, 0}, []byte{2, 0}, 0},
+		{"a register's number", linkWith(func(x *api.Link, n int) { x.Regs = list(num(n)) }), noVirts, []byte{1, 0, 0, 0, 0, 1, 0, 0x80, 1}, []byte{0}, 0},
+		{"the kind of the second register's value", linkWith(func(x *api.Link, n int) { x.Regs = list(v(7), kind(n), w(5)) }), noVirts, []byte{1, 0, 0, 0, 0, 3, 1, 7, 0}, []byte{2, 2, 5, 0}, 0},
 		{"the kind of a cell's value", noLinks, virtWith(func(x *api.Virt, n int) { x.Cells = list(kind(n), v(7)) }), []byte{0, 1, 0, 2, 0}, []byte{2, 1, 7}, 0},
+		{"a cell's number", noLinks, virtWith(func(x *api.Virt, n int) { x.Cells = list(num(n), v(7)) }), []byte{0, 1, 0, 2, 0, 0x80, 1}, []byte{1, 7}, 0},
+		{"the kind of the second cell's value", noLinks, virtWith(func(x *api.Virt, n int) { x.Rec, x.Cells = 3, list(c(-1), kind(n)) }), []byte{0, 1, 3, 2, 0, 0, 1, 0}, []byte{2}, 0},
 	}
 }
 
@@ -168,23 +180,41 @@ func TestUpAndInto(t *testing.T) { // P17.4
 	}
 }
 
-func TestSigned(t *testing.T) { // P17.4, P17.5
-	nines := bytes.Repeat([]byte{0xFF}, 8)
-	for _, s := range []struct {
-		n    int64
-		want []byte
-	}{
+// signedNumerals are numbers with a sign and their bytes.
+func signedNumerals() []numeral {
+	full := bytes.Repeat([]byte{0xFF}, 8)
+	return []numeral{
 		{0, []byte{0}}, {-1, []byte{1}}, {1, []byte{2}}, {-2, []byte{3}}, {2, []byte{4}}, {63, []byte{0x7E}}, {-64, []byte{0x7F}}, {64, []byte{0x80, 1}}, {-65, []byte{0x81, 1}},
-		{8191, []byte{0xFE, 0x7F}}, {-8192, []byte{0xFF, 0x7F}}, {8192, []byte{0x80, 0x80, 1}}, {-8193, []byte{0x81, 0x80, 1}}, {1 << 40, []byte{0x80, 0x80, 0x80, 0x80, 0x80, 0x40}},
-		{1<<40 + 1, []byte{0x82, 0x80, 0x80, 0x80, 0x80, 0x40}}, {-1 << 40, []byte{0xFF, 0xFF, 0xFF, 0xFF, 0xFF, 0x3F}},
-		{math.MaxInt64, slices.Concat([]byte{0xFE}, nines, []byte{1})}, {math.MinInt64, slices.Concat([]byte{0xFF}, nines, []byte{1})},
-		{math.MaxInt64 - 1, slices.Concat([]byte{0xFC}, nines, []byte{1})}, {math.MinInt64 + 1, slices.Concat([]byte{0xFD}, nines, []byte{1})},
-		{1 << 62, []byte{0x80, 0x80, 0x80, 0x80, 0x80, 0x80, 0x80, 0x80, 0x80, 1}}, {1<<62 - 1, slices.Concat([]byte{0xFE}, nines[:7], []byte{0x7F})}, {-1 << 62, slices.Concat([]byte{0xFF}, nines[:7], []byte{0x7F})},
-	} {
-		for kind := range 4 {
-			source := con(api.Value{Kind: kind, N: s.n})
-			wantBytes(t, []api.Link{{Up: -1, Into: -1, Regs: list(source)}}, nil, slices.Concat([]byte{1, 0, 0, 0, 0, 1, 0, byte(kind)}, s.want, []byte{0})...)
-			wantBytes(t, nil, []api.Virt{{Cells: list(source)}}, slices.Concat([]byte{0, 1, 0, 1, 0, byte(kind)}, s.want)...)
+		{8191, []byte{0xFE, 0x7F}}, {-8192, []byte{0xFF, 0x7F}}, {8192, []byte{0x80, 0x80, 1}}, {-8193, []byte{0x81, 0x80, 1}}, {1 << 39, []byte{0x80, 0x80, 0x80, 0x80, 0x80, 0x20}},
+		{1 << 40, []byte{0x80, 0x80, 0x80, 0x80, 0x80, 0x40}}, {1<<40 + 1, []byte{0x82, 0x80, 0x80, 0x80, 0x80, 0x40}}, {-1 << 40, []byte{0xFF, 0xFF, 0xFF, 0xFF, 0xFF, 0x3F}},
+		{-1<<40 - 1, []byte{0x81, 0x80, 0x80, 0x80, 0x80, 0x40}}, {1 << 41, []byte{0x80, 0x80, 0x80, 0x80, 0x80, 0x80, 1}},
+		{1 << 62, []byte{0x80, 0x80, 0x80, 0x80, 0x80, 0x80, 0x80, 0x80, 0x80, 1}}, {1<<62 - 1, slices.Concat([]byte{0xFE}, full[:7], []byte{0x7F})}, {-1 << 62, slices.Concat([]byte{0xFF}, full[:7], []byte{0x7F})},
+		{math.MaxInt, slices.Concat([]byte{0xFE}, full, []byte{1})}, {math.MinInt, slices.Concat([]byte{0xFF}, full, []byte{1})},
+		{math.MaxInt - 1, slices.Concat([]byte{0xFC}, full, []byte{1})}, {math.MinInt + 1, slices.Concat([]byte{0xFD}, full, []byte{1})},
+	}
+}
+
+func TestSigned(t *testing.T) { // P17.4, P17.5
+	for _, f := range signedFields() {
+		for _, n := range signedNumerals() {
+			wantBytes(t, f.links(n.n), f.virts(n.n), slices.Concat(f.ahead, n.bytes, f.then)...)
+		}
+		for _, n := range edges {
+			wantEncoded(t, f.links(n), f.virts(n))
+		}
+		if t.Failed() {
+			t.Fatal(f.name)
+		}
+	}
+}
+
+// TestValues: each Kind with each number; there are no bounds for either.
+func TestValues(t *testing.T) { // P17.4, P17.5
+	for _, kind := range signedNumerals() {
+		for _, n := range signedNumerals() {
+			source := con(api.Value{Kind: kind.n, N: int64(n.n)})
+			wantBytes(t, []api.Link{{Up: -1, Into: -1, Regs: list(source)}}, nil, slices.Concat([]byte{1, 0, 0, 0, 0, 1, 0}, kind.bytes, n.bytes, []byte{0})...)
+			wantBytes(t, nil, []api.Virt{{Cells: list(source)}}, slices.Concat([]byte{0, 1, 0, 1, 0}, kind.bytes, n.bytes)...)
 		}
 	}
 }
@@ -232,7 +262,7 @@ func TestWrongSources(t *testing.T) { // P17.4
 			}
 		}
 		if n < 0 || n > 1<<40 {
-			wrong = append(wrong, v(n), w(n), con(api.Value{Kind: n}), con(api.Value{Kind: n, N: 1}))
+			wrong = append(wrong, v(n), w(n))
 		}
 	}
 	for _, s := range wrong {
@@ -241,8 +271,20 @@ func TestWrongSources(t *testing.T) { // P17.4
 			wantEncoded(t, l, x)
 		})
 	}
-	for _, x := range values {
-		places(con(x), func(l []api.Link, x []api.Virt) { wantEncoded(t, l, x) })
+}
+
+// TestAnyValues: a constant's value may be any, whatever its kind; there is no error of it.
+func TestAnyValues(t *testing.T) { // P17.4, P17.5
+	all := slices.Clone(values)
+	for _, n := range edges {
+		all = append(all, api.Value{Kind: n}, api.Value{Kind: n, N: 1}, api.Value{Kind: n, N: int64(n)})
+	}
+	for _, value := range all {
+		places(con(value), func(l []api.Link, x []api.Virt) {
+			if b := wantEncoded(t, l, x); b == nil {
+				t.Errorf("no bytes of %v", value)
+			}
+		})
 	}
 }
 
@@ -304,6 +346,28 @@ func TestLong(t *testing.T) { // P17.4, P17.5
 	}
 	wantSnap(t, api.ErrLong, slices.Repeat(wide(most)[:139], 20), nil)
 	wantSnap(t, api.ErrLong, nil, slices.Repeat([]api.Virt{{Cells: wide(most)[0].Regs}}, 140))
+}
+
+// TestLongKinds: the bytes of the kinds of values count as others do.
+func TestLongKinds(t *testing.T) { // P17.4
+	// Each of these takes 21 bytes; what is ahead of them 6, and behind them 16 are left of 2^24.
+	cells := slices.Repeat(list(con(api.Value{Kind: math.MinInt, N: math.MinInt64})), 798914)
+	cells = append(cells, c(0), c(0), c(0), c(0), v(0), v(0))
+	b, e := Encode(nil, []api.Virt{{Cells: cells}})
+	if e != api.OK || len(b) != 16777216 {
+		t.Fatal(e, len(b))
+	}
+	if l, x, e := Decode(b); e != api.OK || len(l) != 0 || len(x) != 1 || !slices.EqualFunc(x[0].Cells, cells, sameSource) {
+		t.Error(e, len(l), len(x))
+	}
+	cells[798914].Val.Kind = 63
+	if b, e := Encode(nil, []api.Virt{{Cells: cells}}); e != api.OK || len(b) != 16777216 {
+		t.Error(e, len(b))
+	}
+	for _, kind := range []int{64, -65, 1 << 40, math.MaxInt} {
+		cells[798914].Val.Kind = kind
+		wantSnap(t, api.ErrLong, nil, []api.Virt{{Cells: cells}})
+	}
 }
 
 // TestLongAndWrong: ErrSnap is named first, so it is the answer also if what is wrong stands behind the last byte that may be.

@@ -143,7 +143,7 @@ func figuresOfSources(l []api.Src) []figure {
 		switch s.Kind {
 		case 0:
 			kind.wrong = s.N != 0
-			all = append(all, kind, plus(s.Val.Kind, 0), signed(s.Val.N))
+			all = append(all, kind, signed(int64(s.Val.Kind)), signed(s.Val.N))
 		case 1, 2:
 			kind.wrong = s.Val.Kind != 0 || s.Val.N != 0
 			all = append(all, kind, plus(s.N, 0))
@@ -256,7 +256,7 @@ func (d *decoding) sources() []api.Src {
 	for left := d.next(); left > 0 && len(d.numbers) > 0; left-- {
 		s := api.Src{Kind: d.next()}
 		if s.Kind == 0 {
-			s.Val.Kind = d.next()
+			s.Val.Kind = int(d.nextSigned())
 			s.Val.N = d.nextSigned()
 		} else {
 			s.N = d.next()
